@@ -87,11 +87,11 @@ func (b breaker) mayCount() bool {
 	return b.Grade <= api.ErrorCount && within(b.Count, 0, most) && within(b.Least, 1, api.MaxCount)
 }
 
-// mayLast is of its times, which are microseconds.
+// mayLast is of its times, which are microseconds: the least Window and Recover are a whole second, the least Slow is one microsecond.
 func (b breaker) mayLast() bool {
 	return withinIf(b.Grade == api.SlowRatio, b.Slow, 1, hour*api.Second) &&
-		within(b.Window, 1, maxWindow*api.Second) &&
-		within(b.Recover, 1, hour*api.Second)
+		within(b.Window, api.Second, maxWindow*api.Second) &&
+		within(b.Recover, api.Second, hour*api.Second)
 }
 
 func (h hot) look() api.Errno {

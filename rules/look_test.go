@@ -17,7 +17,7 @@ func flow() api.Flow {
 }
 
 func breaker() api.Break {
-	return api.Break{Resource: "r", Grade: api.ErrorRatio, Count: 500, Least: 5, Window: api.Second, Recover: 200000}
+	return api.Break{Resource: "r", Grade: api.ErrorRatio, Count: 500, Least: 5, Window: 1500000, Recover: 2000000}
 }
 
 func hot() api.Hot {
@@ -241,15 +241,15 @@ func graded(g api.Grade) func() api.Break {
 	}
 }
 
-// P7.1: a breaker's rule: its numbers by its grade; its times are microseconds, from one on.
+// P7.1: a breaker's rule: its numbers by its grade; its times are microseconds, Window and Recover of a second at least.
 func TestBreak(t *testing.T) {
 	type field = number[api.Break]
 	count := func(b *api.Break, n int) { b.Count = n }
 	slow := func(b *api.Break, n int) { b.Slow = n }
 	all := []field{
 		{"Least", func(b *api.Break, n int) { b.Least = n }, 1, 1 << 40},
-		{"Window", func(b *api.Break, n int) { b.Window = n }, 1, 120000000},
-		{"Recover", func(b *api.Break, n int) { b.Recover = n }, 1, 3600000000},
+		{"Window", func(b *api.Break, n int) { b.Window = n }, 1000000, 120000000},
+		{"Recover", func(b *api.Break, n int) { b.Recover = n }, 1000000, 3600000000},
 	}
 	bounds(t, graded(api.SlowRatio), rules.Break, api.ErrBreak, append(all, field{"Count", count, 0, 1000}, field{"Slow", slow, 1, 3600000000})...)
 	bounds(t, graded(api.ErrorRatio), rules.Break, api.ErrBreak, append(all, field{"Count", count, 0, 1000}, field{"Slow", slow, 0, 0})...)
@@ -257,6 +257,33 @@ func TestBreak(t *testing.T) {
 	for _, g := range []api.Grade{api.ErrorCount + 1, 255} {
 		if got := rules.Break(graded(g)()); got != api.ErrBreak {
 			t.Errorf("Grade %d: %v", g, got)
+		}
+	}
+}
+
+// P7.1: a Window or a Recover below a second is refused with every grade, whatever the other one is; a Slow below it is not.
+func TestBreakBelowASecond(t *testing.T) {
+	tests := []struct {
+		window, recover int
+		want            api.Errno
+	}{
+		{1000000, 1000000, api.OK},
+		{999999, 1000000, api.ErrBreak},
+		{1000000, 999999, api.ErrBreak},
+		{999999, 999999, api.ErrBreak},
+		{120, 3600, api.ErrBreak},
+		{120000, 3600000000, api.ErrBreak},
+		{120000000, 200000, api.ErrBreak},
+		{1, 1, api.ErrBreak},
+		{120000000, 3600000000, api.OK},
+	}
+	for _, x := range tests {
+		for _, g := range []api.Grade{api.SlowRatio, api.ErrorRatio, api.ErrorCount} {
+			b := graded(g)()
+			b.Window, b.Recover = x.window, x.recover
+			if got := rules.Break(b); got != x.want {
+				t.Errorf("Grade %d, Window %d, Recover %d: %v, want %v", g, x.window, x.recover, got, x.want)
+			}
 		}
 	}
 }

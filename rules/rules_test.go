@@ -83,6 +83,9 @@ func TestWhere(t *testing.T) {
 	errs := []api.Errno{api.ErrFlow, api.ErrBreak, api.ErrHot, api.ErrSystem, api.ErrList}
 	named := all()
 	named.Breaks[1].Resource, named.Hots[0].Index = "", 9
+	brief, soon := many(1, 3, 0, 0, 1), many(0, 3, 1, 0, 0)
+	brief.Breaks[2].Window, brief.Lists[0].Origins = 999999, nil
+	soon.Breaks[1].Recover, soon.Breaks[2].Window = 1, 1
 	tests := []struct {
 		name string
 		r    api.Rules
@@ -98,6 +101,8 @@ func TestWhere(t *testing.T) {
 		{"too many lists", many(0, 0, 0, 0, 257), found{api.ListRule, 0, api.ErrLong}},
 		{"too many behind some that are wrong", spoil(many(3, 3, 3, 3, 257), 2, kinds...), found{api.ListRule, 0, api.ErrLong}},
 		{"a name", named, found{api.BreakRule, 1, api.ErrName}},
+		{"a Window below a second", brief, found{api.BreakRule, 2, api.ErrBreak}},
+		{"a Recover below a second", soon, found{api.BreakRule, 1, api.ErrBreak}},
 		{"the last of all", spoil(many(256, 256, 256, 256, 256), 255, api.ListRule), found{api.ListRule, 255, api.ErrList}},
 	}
 	for i, k := range kinds {

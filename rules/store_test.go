@@ -51,6 +51,8 @@ func TestStoreRefuses(t *testing.T) {
 	}
 	wrong := all()
 	wrong.Lists[1].Resource = "a b"
+	brief, soon := all(), all()
+	brief.Breaks[1].Window, soon.Breaks[0].Recover = 1, 1
 	tests := []struct {
 		r    api.Rules
 		want api.Errno
@@ -63,6 +65,8 @@ func TestStoreRefuses(t *testing.T) {
 		{spoil(all(), 0, api.SystemRule), api.ErrSystem},
 		{spoil(all(), 1, api.ListRule), api.ErrList},
 		{wrong, api.ErrName},
+		{brief, api.ErrBreak},
+		{soon, api.ErrBreak},
 	}
 	for _, x := range tests {
 		if err := s.Load(x.r); err != x.want {
