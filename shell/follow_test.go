@@ -96,6 +96,16 @@ func passes(from int) func(i int) string {
 
 func always(answer string) func(i int) string { return func(int) string { return answer } }
 
+// warming is the seconds in which a rule of 100 becomes warm behind 10: in each as many tokens pass as may, and not one more.
+func warming() []step {
+	var l []step
+	for at, n := range []int{33, 34, 36, 38, 41, 44, 47, 52, 58, 68, 83, 100, 100} {
+		l = append(l, step{fmt.Sprint("tick ", at*1000000), "ok"}, step{fmt.Sprintf("enter 0 a main - in %d", n+1), "block flow 0"},
+			step{fmt.Sprintf("enter 0 a main - in %d", n), fmt.Sprintf("pass %d 0", at+1)}, step{"enter 0 a main - in 1", "block flow 0"})
+	}
+	return l
+}
+
 // DOC.md's ten examples of the whole, and with them E1 to E9.
 func TestExamples(t *testing.T) {
 	join := func(l ...any) []step {
@@ -116,7 +126,7 @@ func TestExamples(t *testing.T) {
 			step{"tick 999999", "ok"}, step{call, "block flow 0"}, step{"tick 1099999", "ok"}, repeat(10, call, passes(11)), step{call, "block flow 0"}),
 		"2": join(step{`rules 0 {"flow":[{"resource":"a","count":10,"shape":"pace","queue":200000}]}`, "ok"}, step{call, "pass 1 0"}, step{call, "pass 2 100000"}, step{call, "pass 3 200000"}, step{call, "block flow 0"}),
 		"3": join(step{`rules 0 {"flow":[{"resource":"a","threads":true,"count":1}]}`, "ok"}, step{call, "pass 1 0"}, step{call, "block flow 0"}, step{"exit 0 1 bad", "ok"}, step{call, "pass 2 0"}),
-		"4": join(step{`rules 0 {"flow":[{"resource":"a","count":100,"shape":"warmup","warm":10}]}`, "ok"}, repeat(33, call, passes(1)), step{call, "block flow 0"}),
+		"4": join(step{`rules 0 {"flow":[{"resource":"a","count":100,"shape":"warmup","warm":10}]}`, "ok"}, warming()),
 		"5": join(step{`rules 0 {"break":[{"resource":"a","grade":"errors","count":500,"least":5,"window":1000000,"recover":1000000}]}`, "ok"}, repeat(5, call, passes(1)),
 			step{"exit 0 1 ok", "ok"}, step{"exit 0 2 bad", "ok"}, step{"exit 0 3 bad", "ok"}, step{"exit 0 4 ok", "ok"}, step{call, "pass 6 0"}, step{"exit 0 5 bad", "ok"}, step{call, "block breaker 0"},
 			step{"tick 999999", "ok"}, step{call, "block breaker 0"}, step{"tick 1000000", "ok"}, step{call, "pass 7 0"}, step{call, "block breaker 0"}, step{"exit 0 7 ok", "ok"}, step{call, "pass 8 0"}),
